@@ -367,11 +367,13 @@ func TestTokensWrong(t *testing.T) {
 	checkNoTokens(t, "x \u00e9", 2)
 }
 
+// fill is a source of so many bytes, with more between as often as it goes.
+func fill(ahead string, more string, behind string, size int) string {
+	room := size - len(ahead) - len(behind)
+	return ahead + strings.Repeat(more, room/len(more)) + strings.Repeat(" ", room%len(more)) + behind
+}
+
 func TestTokensLimit(t *testing.T) {
-	fill := func(ahead string, more string, behind string, size int) string {
-		room := size - len(ahead) - len(behind)
-		return ahead + strings.Repeat(more, room/len(more)) + strings.Repeat(" ", room%len(more)) + behind
-	}
 	for _, sized := range []func(size int) string{
 		func(size int) string { return fill("", " ", "", size) },
 		func(size int) string { return fill("", "\n", "", size) },
