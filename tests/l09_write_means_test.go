@@ -294,6 +294,20 @@ func turnNode(chance *rand.Rand, n *impl.Node) {
 	}
 }
 
+// turnedRules are others than some, by one node, and now and then by one Kind.
+func turnedRules(chance *rand.Rand, list []impl.Rule) []impl.Rule {
+	other := cloneRules(list)
+	r := &other[chance.Intn(len(other))]
+	var nodes []*impl.Node
+	everyNode(&r.Body, func(n *impl.Node) { nodes = append(nodes, n) })
+	everyNode(&r.Pat, func(n *impl.Node) { nodes = append(nodes, n) })
+	turnNode(chance, nodes[chance.Intn(len(nodes))])
+	if chance.Intn(10) == 0 {
+		r.Kind = chance.Intn(5)
+	}
+	return other
+}
+
 func TestWriteByChance(t *testing.T) {
 	chance := rand.New(rand.NewSource(99))
 	tidy, untidy := 0, 0
@@ -301,16 +315,7 @@ func TestWriteByChance(t *testing.T) {
 		list := rulesByChance(chance)
 		checkWrite(t, list, rulesByForms(list))
 		for range 4 {
-			other := cloneRules(list)
-			r := &other[chance.Intn(len(other))]
-			var nodes []*impl.Node
-			everyNode(&r.Body, func(n *impl.Node) { nodes = append(nodes, n) })
-			everyNode(&r.Pat, func(n *impl.Node) { nodes = append(nodes, n) })
-			turnNode(chance, nodes[chance.Intn(len(nodes))])
-			if chance.Intn(10) == 0 {
-				r.Kind = chance.Intn(5)
-			}
-			if checkByForms(t, other) {
+			if checkByForms(t, turnedRules(chance, list)) {
 				tidy++
 			} else {
 				untidy++
@@ -546,6 +551,14 @@ func roomy(n impl.Node) impl.Node {
 	return n
 }
 
+func roomyRules(list []impl.Rule) []impl.Rule {
+	list = slices.Clone(list)
+	for i := range list {
+		list[i].Pat, list[i].Body = roomy(list[i].Pat), roomy(list[i].Body)
+	}
+	return append(list, impl.Rule{Kind: 9}, impl.Rule{Body: ndVar("room")})[:len(list)]
+}
+
 func withRoomShown(list []impl.Rule) string {
 	var shown strings.Builder
 	for _, r := range list[:cap(list)] {
@@ -566,11 +579,7 @@ func TestWriteWritesNothing(t *testing.T) {
 		if i%3 == 0 {
 			turnNode(chance, &list[len(list)-1].Body)
 		}
-		for i := range list {
-			list[i].Pat, list[i].Body = roomy(list[i].Pat), roomy(list[i].Body)
-		}
-		list = append(list, impl.Rule{Kind: 9}, impl.Rule{Body: ndVar("room")})
-		list = list[:len(list)-2]
+		list = roomyRules(list)
 		before := withRoomShown(list)
 		tidy, text := impl.Tidy(list), impl.Write(list)
 		if withRoomShown(list) != before {
