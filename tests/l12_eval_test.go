@@ -21,7 +21,8 @@ func runnable(t *testing.T, src string) []impl.Rule {
 }
 
 // lineOf is Line, and asks for what holds of each one: what it tells is a state
-// of these names; where something goes wrong, or went wrong, all is as it was.
+// of these names; where something goes wrong, or went wrong, all is as it was;
+// its places (chapter 15) tell the same.
 func lineOf(t *testing.T, list []impl.Rule, s impl.State, line string) (impl.State, string) {
 	t.Helper()
 	got, out := impl.Line(list, s, line)
@@ -38,6 +39,7 @@ func lineOf(t *testing.T, list []impl.Rule, s impl.State, line string) (impl.Sta
 	if got.Err != impl.ErNone && out != "" || len(out) > impl.MaxOut {
 		t.Errorf("line %.80q with Err %d puts out %q", line, got.Err, out)
 	}
+	checkAsTrees(t, list, s, line, got, out)
 	return got, out
 }
 

@@ -86,6 +86,8 @@ func checkCompiled(t *testing.T, src string, start string, main string) {
 	if got := textsOfOps(p.Main); got != main {
 		t.Errorf("main of %s\nis   %s\nwant %s", src, got, main)
 	}
+	// What they do is chapter 15's: the same as their trees.
+	checkLinesAsTrees(t, rulesFrom(t, src), []string{"", "a b", "1 0 2.50", "0"}, map[int]int{})
 }
 
 func checkMain(t *testing.T, src string, main string) {
